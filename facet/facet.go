@@ -1,0 +1,63 @@
+// Package facet: polygons, cut into triangles as well as can be: see DOC.md.
+package facet
+
+// Errno is what a call answers: OK or the reason for a refusal.
+type Errno int
+
+const (
+	OK       Errno = 0
+	ErrLong  Errno = 1 // a text, or a list, above its bound
+	ErrText  Errno = 2 // no text of corners
+	ErrMeet  Errno = 3 // edges that meet where they must not
+	ErrRange Errno = 4 // a point that is too far away
+)
+
+// Point is how far to the right, and how far up.
+type Point struct{ X, Y int }
+
+// Triangle is three numbers of corners.
+type Triangle struct{ A, B, C int }
+
+// Check tells whether a text is that of a polygon's corners (P3).
+func Check(corners string) (Errno, int) {
+	_, errno, place := readPolygon(corners)
+	return errno, place
+}
+
+// Area tells twice the area (P4).
+func Area(corners string) (int, Errno, int) {
+	p, errno, place := readPolygon(corners)
+	if errno != OK {
+		return 0, errno, place
+	}
+	return p.doubleArea(), OK, 0
+}
+
+// Where tells where a point lies (P5).
+func Where(corners string, p Point) (int, int, Errno, int) { return 0, 0, 0, 0 }
+
+// Wheres tells where many points lie (P6).
+func Wheres(corners string, points []Point) ([]int, Errno, int) { return nil, 0, 0 }
+
+// Cut cuts a polygon into triangles (P7).
+func Cut(corners string) ([]Triangle, Errno, int) { return nil, 0, 0 }
+
+// Find tells in which triangle a point lies (P8).
+func Find(corners string, p Point) (int, Errno, int) { return 0, 0, 0 }
+
+// readPolygon is where every call begins, so that all of them refuse a text
+// in the same way: the error, and its place, are those of Check.
+func readPolygon(text string) (polygon, Errno, int) {
+	if len(text) > maxText {
+		return polygon{}, ErrLong, 0
+	}
+	corners, wrong := readCorners(text)
+	if wrong != nowhere {
+		return polygon{}, ErrText, wrong
+	}
+	p := polygon{corners}
+	if clash := p.firstClash(); clash != noEdge {
+		return polygon{}, ErrMeet, clash
+	}
+	return p, OK, 0
+}
