@@ -1,6 +1,13 @@
 // Package facet: polygons, cut into triangles as well as can be: see DOC.md.
 package facet
 
+import "slices"
+
+const (
+	maxPoints = 40
+	furthest  = 999 // to each side of 0, as for the numbers of a text
+)
+
 // Errno is what a call answers: OK or the reason for a refusal.
 type Errno int
 
@@ -34,10 +41,32 @@ func Area(corners string) (int, Errno, int) {
 }
 
 // Where tells where a point lies (P5).
-func Where(corners string, p Point) (int, int, Errno, int) { return 0, 0, 0, 0 }
+func Where(corners string, p Point) (int, int, Errno, int) {
+	outline, errno, place := readPolygon(corners)
+	if errno != OK {
+		return 0, 0, errno, place
+	}
+	if p.isTooFar() {
+		return 0, 0, ErrRange, 0
+	}
+	found := outline.spotOf(p.asComplex())
+	return found.kind, found.number, OK, 0
+}
 
 // Wheres tells where many points lie (P6).
-func Wheres(corners string, points []Point) ([]int, Errno, int) { return nil, 0, 0 }
+func Wheres(corners string, points []Point) ([]int, Errno, int) {
+	outline, errno, place := readPolygon(corners)
+	if errno != OK {
+		return nil, errno, place
+	}
+	if len(points) > maxPoints {
+		return nil, ErrLong, 0
+	}
+	if number := slices.IndexFunc(points, Point.isTooFar); number >= 0 {
+		return nil, ErrRange, number
+	}
+	return outline.kindsOf(points), OK, 0
+}
 
 // Cut cuts a polygon into triangles (P7).
 func Cut(corners string) ([]Triangle, Errno, int) { return nil, 0, 0 }
@@ -60,4 +89,14 @@ func readPolygon(text string) (polygon, Errno, int) {
 		return polygon{}, ErrMeet, clash
 	}
 	return p, OK, 0
+}
+
+// isTooFar must be asked ahead of asComplex: in a complex number great ones are
+// not exact.
+func (p Point) isTooFar() bool {
+	return p.X < -furthest || p.X > furthest || p.Y < -furthest || p.Y > furthest
+}
+
+func (p Point) asComplex() complex128 {
+	return complex(float64(p.X), float64(p.Y))
 }

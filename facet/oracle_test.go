@@ -150,3 +150,44 @@ func wantedArea(points []facet.Point) int {
 	}
 	return sum
 }
+
+// wantedWhere is what Where must answer of a point in a polygon.
+func wantedWhere(points []facet.Point, p facet.Point) (int, int) {
+	for i, corner := range points {
+		if corner == p {
+			return 3, i
+		}
+	}
+	for i, from := range points {
+		if _, _, some := common(from, points[(i+1)%len(points)], p, p); some {
+			return 2, i
+		}
+	}
+	return crossings(points, p) % 2, 0
+}
+
+// crossings counts the edges that a line from p crosses. It goes down, not to
+// the right, so it is not the program's count; whether the count is odd is
+// the same all the way round. It leans so little that it cannot hit a point
+// with whole numbers in the range.
+func crossings(points []facet.Point, p facet.Point) int {
+	const steep = 9999
+	side := func(q facet.Point) int { return (q.Y - p.Y) - steep*(q.X-p.X) }
+	count := 0
+	for i, a := range points {
+		b := points[(i+1)%len(points)]
+		from, to := side(a), side(b)
+		if (from > 0) == (to > 0) {
+			continue
+		}
+		// How far down the edge is met, times what the sides differ by.
+		met := -((a.Y-p.Y)*to - (b.Y-p.Y)*from)
+		if to < from {
+			met = -met
+		}
+		if met > 0 {
+			count++
+		}
+	}
+	return count
+}

@@ -39,6 +39,7 @@ func TestAllSmallPolygons(t *testing.T) {
 				points[i] = facet.Point{X: cell%c.wide - 1, Y: cell/c.wide - 1}
 			}
 			if holdAgainstOracle(t, textOf(points)) == facet.OK {
+				holdPoints(t, points, gridAround(c.wide))
 				fine++
 			} else {
 				met++
@@ -83,6 +84,7 @@ func TestManyPolygons(t *testing.T) {
 			}
 		}
 		if holdAgainstOracle(t, textOf(points)) == facet.OK {
+			holdPoints(t, points, pointsNear(&d, points))
 			fine[n]++
 		} else {
 			met[n]++
