@@ -42,12 +42,9 @@ func Area(corners string) (int, Errno, int) {
 
 // Where tells where a point lies (P5).
 func Where(corners string, p Point) (int, int, Errno, int) {
-	outline, errno, place := readPolygon(corners)
+	outline, errno, place := readForPoint(corners, p)
 	if errno != OK {
 		return 0, 0, errno, place
-	}
-	if p.isTooFar() {
-		return 0, 0, ErrRange, 0
 	}
 	found := outline.spotOf(p.asComplex())
 	return found.kind, found.number, OK, 0
@@ -69,10 +66,24 @@ func Wheres(corners string, points []Point) ([]int, Errno, int) {
 }
 
 // Cut cuts a polygon into triangles (P7).
-func Cut(corners string) ([]Triangle, Errno, int) { return nil, 0, 0 }
+func Cut(corners string) ([]Triangle, Errno, int) {
+	outline, errno, place := readPolygon(corners)
+	if errno != OK {
+		return nil, errno, place
+	}
+	m := meshOf(outline)
+	return m.triangles, OK, 0
+}
 
 // Find tells in which triangle a point lies (P8).
-func Find(corners string, p Point) (int, Errno, int) { return 0, 0, 0 }
+func Find(corners string, p Point) (int, Errno, int) {
+	outline, errno, place := readForPoint(corners, p)
+	if errno != OK {
+		return 0, errno, place
+	}
+	m := meshOf(outline)
+	return m.firstHolding(p.asComplex()), OK, 0
+}
 
 // readPolygon is where every call begins, so that all of them refuse a text
 // in the same way: the error, and its place, are those of Check.
@@ -89,6 +100,16 @@ func readPolygon(text string) (polygon, Errno, int) {
 		return polygon{}, ErrMeet, clash
 	}
 	return p, OK, 0
+}
+
+// readForPoint is where a call about one point begins: the errors are those
+// of Where.
+func readForPoint(text string, point Point) (polygon, Errno, int) {
+	p, errno, place := readPolygon(text)
+	if errno == OK && point.isTooFar() {
+		return polygon{}, ErrRange, 0
+	}
+	return p, errno, place
 }
 
 // isTooFar must be asked ahead of asComplex: in a complex number great ones are

@@ -9,8 +9,9 @@ type polygon struct {
 	corners []complex128
 }
 
-// edge is the line from one corner to the next one, with both ends. Its
-// number is that of the corner where it begins; end is that of the other one.
+// edge is a line from one corner to another one, with both ends; those of a
+// polygon go to the next one. Its number is that of the corner where it
+// begins; end is that of the other one.
 type edge struct {
 	number, end int
 	from, to    complex128
@@ -54,6 +55,14 @@ func (p polygon) doubleArea() int {
 	})
 }
 
+// joins tells whether the line between two corners is an edge, or lies inside
+// but for its ends. Where no edge bars it, it cannot lead out on its way: so
+// one point of it tells for all.
+func (p polygon) joins(corner, other int) bool {
+	line := edge{corner, other, p.corners[corner], p.corners[other]}
+	return p.firstEdge(line.isBarredBy()) == noEdge && p.spotOf(line.middle()).kind != outside
+}
+
 // clashesWith answers what is to be asked of all edges: whether one has a
 // point in common with e which it must not have.
 func (e edge) clashesWith() func(edge) bool {
@@ -70,6 +79,18 @@ func (e edge) clashesWith() func(edge) bool {
 	}
 }
 
+// isBarredBy answers what is to be asked of all edges: whether one crosses the
+// line e between two corners, or begins on it at a third one.
+func (e edge) isBarredBy() func(edge) bool {
+	return func(other edge) bool {
+		isEnd := other.number == e.number || other.number == e.end
+		return cross(e, other) || !isEnd && e.holds(other.from)
+	}
+}
+
+// middle is exact: what is halved is small.
+func (e edge) middle() complex128 { return (e.from + e.to) / 2 }
+
 // foldsBack tells whether the second of two neighbours leaves their corner
 // the way the first one came. An edge without length has no way of its own,
 // and counts as folded: hence not only above 0.
@@ -81,9 +102,12 @@ func foldsBack(first, second edge) bool {
 // meet tells whether two edges have a point in common: if they do not cross,
 // it is an end of one of them.
 func meet(e, f edge) bool {
-	return e.holds(f.from) || e.holds(f.to) || f.holds(e.from) || f.holds(e.to) ||
-		e.parts(f) && f.parts(e)
+	return e.holds(f.from) || e.holds(f.to) || f.holds(e.from) || f.holds(e.to) || cross(e, f)
 }
+
+// cross tells whether two lines have one point in common that is an end of
+// neither.
+func cross(e, f edge) bool { return e.parts(f) && f.parts(e) }
 
 // holds tells whether a point is on the edge: seen from there, its ends lie
 // in opposite directions, or one of them is the point.

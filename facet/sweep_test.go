@@ -8,7 +8,8 @@ import (
 	"facet/facet"
 )
 
-// holdAgainstOracle asks both calls, and tells what is not as it must be.
+// holdAgainstOracle asks the calls about a text alone, and tells what is not as
+// it must be.
 func holdAgainstOracle(t *testing.T, text string) facet.Errno {
 	t.Helper()
 	wantErrno, wantPlace := wantedCheck(text)
@@ -23,6 +24,16 @@ func holdAgainstOracle(t *testing.T, text string) facet.Errno {
 	area, errno, place := facet.Area(text)
 	if area != wantArea || errno != wantErrno || place != wantPlace {
 		t.Fatalf("P4: Area(%q) = %d, %d, %d, want %d, %d, %d", text, area, errno, place, wantArea, wantErrno, wantPlace)
+	}
+	list, errno, place := facet.Cut(text)
+	fault := ""
+	if wantErrno == facet.OK {
+		fault = faultOfCut(pointsOf(text), list)
+	} else if len(list) != 0 {
+		fault = "triangles beside an error"
+	}
+	if fault != "" || errno != wantErrno || place != wantPlace {
+		t.Fatalf("P7: Cut(%q) = %v, %d, %d, want %d, %d: %s", text, list, errno, place, wantErrno, wantPlace, fault)
 	}
 	return errno
 }
@@ -40,6 +51,7 @@ func TestAllSmallPolygons(t *testing.T) {
 			}
 			if holdAgainstOracle(t, textOf(points)) == facet.OK {
 				holdPoints(t, points, gridAround(c.wide))
+				holdFind(t, points, gridAround(c.wide))
 				fine++
 			} else {
 				met++
@@ -84,7 +96,9 @@ func TestManyPolygons(t *testing.T) {
 			}
 		}
 		if holdAgainstOracle(t, textOf(points)) == facet.OK {
-			holdPoints(t, points, pointsNear(&d, points))
+			near := pointsNear(&d, points)
+			holdPoints(t, points, near)
+			holdFind(t, points, near[:8])
 			fine[n]++
 		} else {
 			met[n]++

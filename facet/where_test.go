@@ -129,16 +129,19 @@ func tooFar() []facet.Point {
 	}
 }
 
-func TestWhereWrong(t *testing.T) {
+// wrongCase is a wrong text, a wrong point, or both.
+type wrongCase struct {
+	name    string
+	corners string
+	p       facet.Point
+	errno   facet.Errno
+	place   int
+}
+
+// wrongForPoint is for all calls that have the errors of Where.
+func wrongForPoint() []wrongCase {
 	near, far := facet.Point{X: 1, Y: 1}, facet.Point{X: 0, Y: 1000}
-	type wrong struct {
-		name    string
-		corners string
-		p       facet.Point
-		errno   facet.Errno
-		place   int
-	}
-	cases := []wrong{
+	cases := []wrongCase{
 		{"long", longest() + " 1", near, facet.ErrLong, 0},
 		{"text", "2,3 7,3 7,9 2;9", near, facet.ErrText, 13},
 		{"text that wants more", "2,3 7,3 ", near, facet.ErrText, 8},
@@ -148,9 +151,13 @@ func TestWhereWrong(t *testing.T) {
 		{"meet ahead of range", "-5,-5 9,-5 9,0 0,0 0,4 5,0 0,9", far, facet.ErrMeet, 2},
 	}
 	for _, p := range tooFar() {
-		cases = append(cases, wrong{"range", "0,0 4,0 4,4 0,4", p, facet.ErrRange, 0})
+		cases = append(cases, wrongCase{"range", "0,0 4,0 4,4 0,4", p, facet.ErrRange, 0})
 	}
-	for _, c := range cases {
+	return cases
+}
+
+func TestWhereWrong(t *testing.T) {
+	for _, c := range wrongForPoint() {
 		kind, number, errno, place := facet.Where(c.corners, c.p)
 		if kind != 0 || number != 0 || errno != c.errno || place != c.place {
 			t.Errorf("P5: %s: Where(%q, %v) = %d, %d, %d, %d, want 0, 0, %d, %d", c.name, c.corners, c.p, kind, number, errno, place, c.errno, c.place)
